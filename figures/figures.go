@@ -15,7 +15,7 @@ func New() *Conv { return &Conv{} }
 
 // Parse reads a text as a number: its pattern, the flags; where a text is none (P4 to P7).
 func (c *Conv) Parse(s string, format int, mode int) (int, int, int, api.Errno) {
-	if format < api.Half || format > api.Double || mode < api.Even || mode > api.Down {
+	if !isFormat(format) || !isMode(mode) {
 		return 0, 0, 0, api.ErrArg
 	}
 	if len(s) > api.MaxText {
@@ -32,5 +32,21 @@ func (c *Conv) Parse(s string, format int, mode int) (int, int, int, api.Errno) 
 
 // Format writes a number as a text (P8 to P13).
 func (c *Conv) Format(bits int, format int, verb int, prec int, mode int) (string, api.Errno) {
-	return "", api.OK
+	if !isFormat(format) {
+		return "", api.ErrArg
+	}
+	layout := pattern.Of(format)
+	s := style{verb: verb, prec: prec, mode: mode}
+	if !layout.Has(bits) || !s.isAllowed() {
+		return "", api.ErrArg
+	}
+	return textOf(bits, layout, s), api.OK
+}
+
+func isFormat(format int) bool {
+	return format >= api.Half && format <= api.Double
+}
+
+func isMode(mode int) bool {
+	return mode >= api.Even && mode <= api.Down
 }

@@ -76,16 +76,45 @@ func checkP1(t *testing.T, c *figures.Conv, text string, format, mode int) {
 	}
 }
 
-func TestP1FormatEnds(t *testing.T) {
+func TestP1OddFormats(t *testing.T) {
 	c := figures.New()
-	for _, bits := range oddInts {
+	for _, bits := range append([]int{0x7c00, 0x7e00, 0xffff, 1 << 16, 0x7f800001, 1<<63 - 1<<52}, oddInts...) {
 		for _, format := range oddInts {
 			for _, verb := range oddInts {
-				for _, prec := range []int{math.MinInt, -1, 0, 800, 801, math.MaxInt} {
-					c.Format(bits, format, verb, prec, 0)
+				for _, prec := range []int{math.MinInt, -2, -1, 0, 1, 800, 801, math.MaxInt} {
+					for _, mode := range oddInts {
+						checkP1Format(t, c, bits, format, verb, prec, mode)
+					}
 				}
 			}
 		}
+	}
+}
+
+func checkP1Format(t *testing.T, c *figures.Conv, bits, format, verb, prec, mode int) {
+	t.Helper()
+	text, e := c.Format(bits, format, verb, prec, mode)
+	if (e == api.OK) != (text != "") {
+		t.Errorf("P1: Format(%#x, %d, %d, %d, %d) = %.40q beside error %d", bits, format, verb, prec, mode, text, e)
+	}
+	want := api.ErrArg
+	right := format == 0 && bits>>16 == 0 || format == 1 && bits>>32 == 0 || format == 2
+	switch verb {
+	case api.Short, api.Plain:
+		if right && prec == -1 && mode == 0 {
+			return
+		}
+	case api.Hex:
+		if right && prec == -1 && mode == 0 {
+			want = api.OK
+		}
+	case api.Exp, api.Fix:
+		if right && prec >= 0 && prec <= 800 && mode >= 0 && mode <= 4 {
+			want = api.OK
+		}
+	}
+	if e != want {
+		t.Errorf("P1: Format(%#x, %d, %d, %d, %d) = error %d, want %d", bits, format, verb, prec, mode, e, want)
 	}
 }
 
@@ -124,12 +153,44 @@ func TestP2SameAnswers(t *testing.T) {
 				k = calls[len(calls)-1-i]
 			}
 			want := ask(figures.New(), k.text, k.format, k.mode)
-			used.Format(i, api.Double, api.Short, -1, 0)
+			used.Format(i, api.Double, api.Exp, i%800, 0)
 			if got := ask(used, k.text, k.format, k.mode); got != want {
 				t.Errorf("P2: Parse(%.40q, %d, %d) = %v by a used converter, %v by a new one", k.text, k.format, k.mode, got, want)
 			}
 			if got := ask(&figures.Conv{}, k.text, k.format, k.mode); got != want {
 				t.Errorf("P2: Parse(%.40q, %d, %d) = %v by a plain converter, %v by a new one", k.text, k.format, k.mode, got, want)
+			}
+		}
+	}
+}
+
+// The same of Format, with calls of both kinds between.
+func TestP2SameTexts(t *testing.T) {
+	calls := [][5]int{{0, 3, 4, -1, 0}, {-1, 0, 4, -1, 0}, {0, 0, 2, 801, 0}, {0, 2, 9, 0, 0}}
+	for format, s := range shapes {
+		for _, a := range []int{0, 1, s.leastNormal() - 1, s.leastNormal(), s.bias()<<s.f + 3, s.infinity() - 1, s.infinity(), s.infinity() + 1} {
+			for _, bits := range []int{a, s.signed(a, true)} {
+				for _, mode := range modes {
+					calls = append(calls, [5]int{bits, format, api.Exp, 3 * mode, mode}, [5]int{bits, format, api.Fix, 200 * mode, mode}, [5]int{bits, format, api.Hex, -1, 0})
+				}
+			}
+		}
+	}
+	used := figures.New()
+	for round := 0; round < 3; round++ {
+		for i := range calls {
+			k := calls[i]
+			if round == 1 {
+				k = calls[len(calls)-1-i]
+			}
+			text, e := figures.New().Format(k[0], k[1], k[2], k[3], k[4])
+			ask(used, examples[i%len(examples)].text, i%4, i%5)
+			if got, errno := used.Format(k[0], k[1], k[2], k[3], k[4]); got != text || errno != e {
+				t.Errorf("P2: Format(%v) = %.40q, %d by a used converter, %.40q, %d by a new one", k, got, errno, text, e)
+			}
+			plain := &figures.Conv{}
+			if got, errno := plain.Format(k[0], k[1], k[2], k[3], k[4]); got != text || errno != e {
+				t.Errorf("P2: Format(%v) = %.40q, %d by a plain converter, %.40q, %d by a new one", k, got, errno, text, e)
 			}
 		}
 	}

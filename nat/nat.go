@@ -14,6 +14,15 @@ type Nat struct {
 	limbs []int // the lowest first; the last one is not 0
 }
 
+// FromInt makes the number that value, at least 0, is.
+func FromInt(value int) *Nat {
+	n := &Nat{}
+	for left := value; left > 0; left /= base {
+		n.limbs = append(n.limbs, left%base)
+	}
+	return n
+}
+
 // FromDigits makes the number with these digits in base 10 or 16, the first
 // digit being the highest.
 func FromDigits(digits []int, digitBase int) *Nat {
@@ -113,6 +122,46 @@ func (n *Nat) trim() {
 		top--
 	}
 	n.limbs = n.limbs[:top]
+}
+
+// Digits are the decimal digits of the number, the highest first; 0 has none.
+func (n *Nat) Digits() []int {
+	left := &Nat{}
+	left.limbs = append(left.limbs, n.limbs...)
+	digits := []int{}
+	for !left.IsZero() {
+		group := left.divideByBillion()
+		for i := 0; i < 9; i++ {
+			digits = append(digits, group%10)
+			group /= 10
+		}
+	}
+	return turned(digits)
+}
+
+// divideByBillion leaves the quotient and answers what is over.
+func (n *Nat) divideByBillion() int {
+	const billion = 1000000000
+	over := 0
+	for i := len(n.limbs) - 1; i >= 0; i-- {
+		x := over*base + n.limbs[i]
+		n.limbs[i] = x / billion
+		over = x % billion
+	}
+	n.trim()
+	return over
+}
+
+// turned are the digits in the other order, without the noughts that then
+// stand ahead.
+func turned(digits []int) []int {
+	list := []int{}
+	for i := len(digits) - 1; i >= 0; i-- {
+		if digits[i] > 0 || len(list) > 0 {
+			list = append(list, digits[i])
+		}
+	}
+	return list
 }
 
 // IsZero tells whether the number is 0.

@@ -107,3 +107,27 @@ func TestSubAndCompare(t *testing.T) {
 		}
 	}
 }
+
+func TestFromInt(t *testing.T) {
+	for _, value := range []int{0, 1, 2, base - 1, base, base + 1, base*base - 1, base * base, 1<<53 - 1, 1<<63 - 1} {
+		check(t, "FromInt", FromInt(value), big.NewInt(int64(value)))
+	}
+}
+
+func TestDigits(t *testing.T) {
+	for _, text := range texts() {
+		n, want := make10(text)
+		digits := ""
+		for _, d := range n.Digits() {
+			digits += string(rune('0' + d))
+		}
+		if want.Sign() == 0 {
+			if digits != "" {
+				t.Errorf("Digits of 0 = %q", digits)
+			}
+		} else if digits != want.String() {
+			t.Errorf("Digits = %q, want %v", digits, want)
+		}
+		check(t, "what Digits are of", n, want)
+	}
+}

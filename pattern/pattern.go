@@ -40,3 +40,30 @@ func (l Layout) Signed(amount int, negative bool) int {
 	}
 	return amount
 }
+
+// Has tells whether bits is a pattern of the format.
+func (l Layout) Has(bits int) bool {
+	// Double's sign is that of the int: every int is a pattern.
+	return l.Sign < 0 || (bits >= 0 && bits < 2*l.Sign)
+}
+
+// Split is the amount of a pattern, and whether its sign is set.
+func (l Layout) Split(bits int) (int, bool) {
+	if bits&l.Sign == 0 {
+		return bits, false
+	}
+	return bits - l.Sign, true
+}
+
+// Number is what a finite amount says: the first answer times two to the power
+// that is the second.
+func (l Layout) Number(amount int) (int, int) {
+	least := l.LeastPower() - l.LowerBits
+	if l.LeastNormal <= 0 || amount < l.LeastNormal {
+		return amount, least
+	}
+	// The numbers from the least normal one to twice it stand as far from each
+	// other as those below it.
+	exponent := amount / l.LeastNormal
+	return l.LeastNormal + amount%l.LeastNormal, least + exponent - 1
+}

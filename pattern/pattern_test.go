@@ -1,6 +1,7 @@
 package pattern
 
 import (
+	"math"
 	"testing"
 
 	"figures/api"
@@ -22,6 +23,47 @@ func TestLayouts(t *testing.T) {
 			if l.Signed(amount, false) != amount || l.Signed(amount, true) != int(sign|uint64(amount)) {
 				t.Errorf("Signed of %d, %x = %x, %x", k.format, amount, l.Signed(amount, false), l.Signed(amount, true))
 			}
+		}
+	}
+}
+
+func TestHas(t *testing.T) {
+	for _, k := range []struct {
+		bits                 int
+		half, single, double bool
+	}{
+		{0, true, true, true}, {1, true, true, true}, {0x7c00, true, true, true}, {0xffff, true, true, true}, {0x10000, false, true, true}, {1<<32 - 1, false, true, true}, {1 << 32, false, false, true}, {math.MaxInt, false, false, true}, {-1, false, false, true}, {-1 << 31, false, false, true}, {math.MinInt, false, false, true},
+	} {
+		for format, want := range []bool{k.half, k.single, k.double} {
+			if got := Of(format).Has(k.bits); got != want {
+				t.Errorf("Has(%x) of %d = %v", k.bits, format, got)
+			}
+		}
+	}
+}
+
+func TestSplit(t *testing.T) {
+	for format := api.Half; format <= api.Double; format++ {
+		l := Of(format)
+		for _, amount := range []int{0, 1, l.LeastNormal, l.Infinity, l.Infinity + l.LeastNormal - 1} {
+			for _, negative := range []bool{false, true} {
+				a, n := l.Split(l.Signed(amount, negative))
+				if a != amount || n != negative {
+					t.Errorf("Split of %d, %x, %v = %x, %v", format, amount, negative, a, n)
+				}
+			}
+		}
+	}
+}
+
+func TestNumber(t *testing.T) {
+	for _, k := range []struct{ format, amount, factor, power int }{
+		{api.Half, 0, 0, -24}, {api.Half, 1, 1, -24}, {api.Half, 0x3ff, 0x3ff, -24}, {api.Half, 0x400, 0x400, -24}, {api.Half, 0x7ff, 0x7ff, -24}, {api.Half, 0x800, 0x400, -23}, {api.Half, 0x3c01, 0x401, -10}, {api.Half, 0x7bff, 0x7ff, 5},
+		{api.Single, 1, 1, -149}, {api.Single, 0x3f800000, 1 << 23, -23}, {api.Single, 0x7f7fffff, 1<<24 - 1, 104},
+		{api.Double, 1, 1, -1074}, {api.Double, 1<<52 - 1, 1<<52 - 1, -1074}, {api.Double, 1 << 52, 1 << 52, -1074}, {api.Double, 0x3ff0000000000001, 1<<52 + 1, -52}, {api.Double, 0x7fefffffffffffff, 1<<53 - 1, 971},
+	} {
+		if factor, power := Of(k.format).Number(k.amount); factor != k.factor || power != k.power {
+			t.Errorf("Number(%x) of %d = %x, %d", k.amount, k.format, factor, power)
 		}
 	}
 }
