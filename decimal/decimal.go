@@ -1,5 +1,5 @@
-// Package decimal holds numbers above 0 as decimals, exactly, and rounds them
-// to fewer digits.
+// Package decimal holds numbers above 0 as decimals, exactly, compares them and
+// rounds them to fewer digits.
 package decimal
 
 import (
@@ -30,6 +30,60 @@ func (d *Decimal) FirstPower() int {
 	return d.power + len(d.digits) - 1
 }
 
+// LastPower is the power of ten of the last digit.
+func (d *Decimal) LastPower() int {
+	return d.power
+}
+
+// Digits are all digits of the number.
+func (d *Decimal) Digits() []int {
+	return d.first(len(d.digits))
+}
+
+// Compare answers -1, 0 or 1: a is less than b, the same, or greater.
+func Compare(a *Decimal, b *Decimal) int {
+	first := a.FirstPower()
+	other := b.FirstPower()
+	if first != other {
+		return order(first, other)
+	}
+	for i := 0; i < len(a.digits) || i < len(b.digits); i++ {
+		digit := a.digitAt(i)
+		another := b.digitAt(i)
+		if digit != another {
+			return order(digit, another)
+		}
+	}
+	return 0
+}
+
+func order(a int, b int) int {
+	if a < b {
+		return -1
+	}
+	return 1
+}
+
+// digitAt is the digit in a place from the first on, 0 behind the last.
+func (d *Decimal) digitAt(place int) int {
+	if place < 0 || place >= len(d.digits) {
+		return 0
+	}
+	return d.digits[place]
+}
+
+// Neighbour is the decimal in steps of ten to the power, which is at most that
+// of the first digit, to which the mode rounds the number. It has no noughts
+// at its end.
+func (d *Decimal) Neighbour(power int, mode int) *Decimal {
+	digits := d.Rounded(power, mode, false)
+	for len(digits) > 1 && digits[len(digits)-1] == 0 {
+		digits = digits[:len(digits)-1]
+		power++
+	}
+	return &Decimal{digits: digits, power: power}
+}
+
 // Rounded is the number in steps of ten to the power, rounded by the mode to
 // a whole number of them: the digits of how many. There is no digit if it is 0.
 func (d *Decimal) Rounded(power int, mode int, negative bool) []int {
@@ -47,10 +101,7 @@ func (d *Decimal) Rounded(power int, mode int, negative bool) []int {
 func (d *Decimal) first(count int) []int {
 	list := []int{}
 	for i := 0; i < count; i++ {
-		digit := 0
-		if i < len(d.digits) {
-			digit = d.digits[i]
-		}
+		digit := d.digitAt(i)
 		list = append(list, digit)
 	}
 	return list

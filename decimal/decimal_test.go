@@ -88,3 +88,90 @@ func TestNext(t *testing.T) {
 		}
 	}
 }
+
+func digitsOf(text string) []int {
+	list := []int{}
+	for _, b := range text {
+		list = append(list, int(b-'0'))
+	}
+	return list
+}
+
+func TestDigits(t *testing.T) {
+	for _, digits := range []string{"1", "10", "9876543210", "125"} {
+		for _, power := range []int{-5, 0, 7} {
+			d := &Decimal{digitsOf(digits), power}
+			list := d.Digits()
+			if text(list) != digits || d.LastPower() != power || d.FirstPower() != power+len(digits)-1 {
+				t.Errorf("%se%d: %s, %d, %d", digits, power, text(list), d.LastPower(), d.FirstPower())
+			}
+			list[0] = 7
+			if text(d.digits) != digits {
+				t.Errorf("%s shares memory with its digits", digits)
+			}
+		}
+	}
+}
+
+func TestCompare(t *testing.T) {
+	// From the least to the greatest; those in one row are the same.
+	rows := [][]Decimal{
+		{{digitsOf("1"), -400}, {digitsOf("100"), -402}},
+		{{digitsOf("9"), -2}},
+		{{digitsOf("1"), -1}, {digitsOf("10"), -2}},
+		{{digitsOf("1001"), -4}},
+		{{digitsOf("5"), 0}, {digitsOf("50"), -1}, {digitsOf("50000"), -4}},
+		{{digitsOf("500001"), -5}},
+		{{digitsOf("51"), -1}},
+		{{digitsOf("59"), -1}},
+		{{digitsOf("6"), 0}},
+		{{digitsOf("99999999999999999999"), -19}},
+		{{digitsOf("1"), 1}, {digitsOf("10"), 0}, {digitsOf("100"), -1}},
+		{{digitsOf("2"), 300}},
+		{{digitsOf("1"), 301}},
+	}
+	for i, row := range rows {
+		for j, other := range rows {
+			want := min(max(i-j, -1), 1)
+			for a := range row {
+				for b := range other {
+					if got := Compare(&row[a], &other[b]); got != want {
+						t.Errorf("Compare(%v, %v) = %d, want %d", row[a], other[b], got, want)
+					}
+				}
+			}
+		}
+	}
+}
+
+func TestNeighbour(t *testing.T) {
+	for _, k := range []struct {
+		digits              string
+		power, step         int
+		even, cut, up       string
+		evenAt, cutAt, upAt int
+	}{
+		{"125", 0, 1, "12", "12", "13", 1, 1, 1},
+		{"135", -2, -1, "14", "13", "14", -1, -1, -1},
+		{"125", 0, 2, "1", "1", "2", 2, 2, 2},
+		{"1996", 0, 1, "2", "199", "2", 3, 1, 3},
+		{"9996", -4, -3, "1", "999", "1", 0, -3, 0},
+		{"95", 0, 1, "1", "9", "1", 2, 1, 2},
+		{"1004", 0, 1, "1", "1", "101", 3, 3, 1},
+		{"1200", 3, 3, "12", "12", "12", 5, 5, 5},
+		{"7", 5, 5, "7", "7", "7", 5, 5, 5},
+		{"7", 5, 3, "7", "7", "7", 5, 5, 5},
+	} {
+		d := &Decimal{digitsOf(k.digits), k.power}
+		for i, want := range []Decimal{{digitsOf(k.even), k.evenAt}, {digitsOf(k.cut), k.cutAt}, {digitsOf(k.up), k.upAt}} {
+			mode := []int{api.Even, api.Cut, api.Up}[i]
+			got := d.Neighbour(k.step, mode)
+			if text(got.digits) != text(want.digits) || got.power != want.power {
+				t.Errorf("Neighbour of %se%d in steps of %d by mode %d = %v, want %v", k.digits, k.power, k.step, mode, *got, want)
+			}
+		}
+		if text(d.digits) != k.digits || d.power != k.power {
+			t.Errorf("Neighbour changed %se%d to %v", k.digits, k.power, *d)
+		}
+	}
+}

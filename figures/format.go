@@ -4,6 +4,7 @@ import (
 	"figures/api"
 	"figures/decimal"
 	"figures/pattern"
+	"figures/shortest"
 	"figures/write"
 )
 
@@ -14,11 +15,10 @@ type style struct {
 	mode int
 }
 
-// isAllowed tells whether the verb goes with such a precision and mode. (Short
-// and Plain are not built yet.)
+// isAllowed tells whether the verb goes with such a precision and mode.
 func (s style) isAllowed() bool {
 	switch s.verb {
-	case api.Hex:
+	case api.Short, api.Plain, api.Hex:
 		return s.prec == -1 && s.mode == api.Even
 	case api.Exp, api.Fix:
 		return s.prec >= 0 && s.prec <= api.MaxPrec && isMode(s.mode)
@@ -34,8 +34,7 @@ func textOf(bits int, layout pattern.Layout, s style) string {
 	}
 	text := "inf"
 	if amount < layout.Infinity {
-		factor, power := layout.Number(amount)
-		text = numberText(factor, power, negative, s)
+		text = numberText(amount, layout, negative, s)
 	}
 	if negative {
 		return "-" + text
@@ -43,15 +42,34 @@ func textOf(bits int, layout pattern.Layout, s style) string {
 	return text
 }
 
-// numberText is the text, without a sign, of factor times two to the power.
-func numberText(factor int, power int, negative bool, s style) string {
+// numberText is the text, without a sign, of a finite amount.
+func numberText(amount int, layout pattern.Layout, negative bool, s style) string {
+	factor, power := layout.Number(amount)
 	switch s.verb {
+	case api.Short, api.Plain:
+		return shortestText(amount, layout, s.verb)
 	case api.Exp:
 		return expText(factor, power, negative, s)
 	case api.Fix:
 		return fixText(factor, power, negative, s)
 	}
 	return write.Hex(factor, power)
+}
+
+// shortestText is what Short and Plain write.
+func shortestText(amount int, layout pattern.Layout, verb int) string {
+	if amount == 0 {
+		return "0"
+	}
+	span := layout.Span(amount)
+	found := shortest.Within(span)
+	digits := found.Digits()
+	if verb == api.Plain {
+		last := found.LastPower()
+		return write.Fix(digits, -last)
+	}
+	first := found.FirstPower()
+	return write.Exp(digits, first)
 }
 
 func expText(factor int, power int, negative bool, s style) string {

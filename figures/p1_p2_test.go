@@ -100,11 +100,7 @@ func checkP1Format(t *testing.T, c *figures.Conv, bits, format, verb, prec, mode
 	want := api.ErrArg
 	right := format == 0 && bits>>16 == 0 || format == 1 && bits>>32 == 0 || format == 2
 	switch verb {
-	case api.Short, api.Plain:
-		if right && prec == -1 && mode == 0 {
-			return
-		}
-	case api.Hex:
+	case api.Short, api.Plain, api.Hex:
 		if right && prec == -1 && mode == 0 {
 			want = api.OK
 		}
@@ -154,6 +150,7 @@ func TestP2SameAnswers(t *testing.T) {
 			}
 			want := ask(figures.New(), k.text, k.format, k.mode)
 			used.Format(i, api.Double, api.Exp, i%800, 0)
+			used.Format(i, api.Double, i%2, -1, 0)
 			if got := ask(used, k.text, k.format, k.mode); got != want {
 				t.Errorf("P2: Parse(%.40q, %d, %d) = %v by a used converter, %v by a new one", k.text, k.format, k.mode, got, want)
 			}
@@ -173,6 +170,7 @@ func TestP2SameTexts(t *testing.T) {
 				for _, mode := range modes {
 					calls = append(calls, [5]int{bits, format, api.Exp, 3 * mode, mode}, [5]int{bits, format, api.Fix, 200 * mode, mode}, [5]int{bits, format, api.Hex, -1, 0})
 				}
+				calls = append(calls, [5]int{bits, format, api.Short, -1, 0}, [5]int{bits, format, api.Plain, -1, 0}, [5]int{bits, format, api.Short, 0, 0}, [5]int{bits, format, api.Plain, -1, 1})
 			}
 		}
 	}

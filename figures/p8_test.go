@@ -63,10 +63,15 @@ func TestP8NoPattern(t *testing.T) {
 	// The last patterns that are some.
 	writes(t, c, "P8", 1<<16-1, api.Half, api.Hex, -1, 0, "nan")
 	writes(t, c, "P8", 1<<32-1, api.Single, api.Hex, -1, 0, "nan")
+	writes(t, c, "P8", 1<<16-1, api.Half, api.Short, -1, 0, "nan")
+	writes(t, c, "P8", 1<<32-1, api.Single, api.Plain, -1, 0, "nan")
 	writes(t, c, "P8", 1<<16, api.Single, api.Hex, -1, 0, "0x1p-133")
+	writes(t, c, "P8", 1<<16, api.Single, api.Short, -1, 0, "9.1835e-41")
 	writes(t, c, "P8", math.MaxInt, api.Double, api.Fix, 0, 4, "nan")
 	writes(t, c, "P8", math.MinInt, api.Double, api.Hex, -1, 0, "-0x0p0")
 	writes(t, c, "P8", math.MinInt+1, api.Double, api.Hex, -1, 0, "-0x1p-1074")
+	writes(t, c, "P8", math.MinInt, api.Double, api.Plain, -1, 0, "-0")
+	writes(t, c, "P8", math.MinInt+1, api.Double, api.Short, -1, 0, "-5e-324")
 	writes(t, c, "P8", -1, api.Double, api.Exp, 0, 0, "nan")
 }
 
@@ -100,7 +105,9 @@ func TestP8PrecAndMode(t *testing.T) {
 // checkWord asks for a pattern whose text hangs on nothing else.
 func checkWord(t *testing.T, c *figures.Conv, bits, format int, want string) {
 	t.Helper()
-	writes(t, c, "P8", bits, format, api.Hex, -1, 0, want)
+	for _, verb := range []int{api.Short, api.Plain, api.Hex} {
+		writes(t, c, "P8", bits, format, verb, -1, 0, want)
+	}
 	for _, mode := range modes {
 		for _, prec := range []int{0, 1, 7, 800} {
 			writes(t, c, "P8", bits, format, api.Exp, prec, mode, want)
@@ -121,6 +128,8 @@ func TestP8NaN(t *testing.T) {
 	}
 	for lower := 1; lower < 1<<10; lower++ {
 		writes(t, c, "P8", 0x7c00+lower, api.Half, api.Hex, -1, 0, "nan")
+		writes(t, c, "P8", 0x7c00+lower, api.Half, api.Short, -1, 0, "nan")
+		writes(t, c, "P8", 0xfc00+lower, api.Half, api.Plain, -1, 0, "nan")
 		writes(t, c, "P8", 0xfc00+lower, api.Half, api.Exp, 3, 0, "nan")
 		writes(t, c, "P8", 0xfc00+lower, api.Half, api.Fix, 3, 4, "nan")
 	}
@@ -150,7 +159,14 @@ func TestP8Sign(t *testing.T) {
 				writes(t, c, "P8", s.signed(k.amount, true), formatOf(s), k.verb, k.prec, mode, "-"+k.text)
 			}
 		}
-		writes(t, c, "P8", s.signed(0, true), formatOf(s), api.Hex, -1, 0, "-0x0p0")
-		writes(t, c, "P8", s.signed(one, true), formatOf(s), api.Hex, -1, 0, "-0x1p0")
+		for _, k := range []struct {
+			amount, verb int
+			text         string
+		}{
+			{0, api.Short, "0"}, {0, api.Plain, "0"}, {0, api.Hex, "0x0p0"}, {one, api.Short, "1e0"}, {one, api.Plain, "1"}, {one, api.Hex, "0x1p0"},
+		} {
+			writes(t, c, "P8", k.amount, formatOf(s), k.verb, -1, 0, k.text)
+			writes(t, c, "P8", s.signed(k.amount, true), formatOf(s), k.verb, -1, 0, "-"+k.text)
+		}
 	}
 }

@@ -67,3 +67,26 @@ func (l Layout) Number(amount int) (int, int) {
 	exponent := amount / l.LeastNormal
 	return l.LeastNormal + amount%l.LeastNormal, least + exponent - 1
 }
+
+// Span is what rounding to the nearest makes one number of: all from Low to
+// High, these two being half of the way to the number's neighbours. The three
+// stand in steps of two to Power.
+type Span struct {
+	Low    int
+	Number int
+	High   int
+	Power  int
+	Closed bool // Low and High belong to it
+}
+
+// Span is the span of a finite amount above 0.
+func (l Layout) Span(amount int) Span {
+	factor, power := l.Number(amount)
+	// A quarter of the way to the next number is fine enough: below a power of
+	// two the numbers stand half as far from each other as above it.
+	s := Span{Low: 4*factor - 2, Number: 4 * factor, High: 4*factor + 2, Power: power - 2, Closed: amount%2 == 0}
+	if factor == l.LeastNormal && amount > l.LeastNormal {
+		s.Low++
+	}
+	return s
+}

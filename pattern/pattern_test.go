@@ -67,3 +67,21 @@ func TestNumber(t *testing.T) {
 		}
 	}
 }
+
+func TestSpan(t *testing.T) {
+	for _, k := range []struct {
+		format, amount int
+		want           Span
+	}{
+		{api.Half, 1, Span{2, 4, 6, -26, false}}, {api.Half, 2, Span{6, 8, 10, -26, true}}, {api.Half, 0x200, Span{0x7fe, 0x800, 0x802, -26, true}}, {api.Half, 0x3ff, Span{0xffa, 0xffc, 0xffe, -26, false}},
+		// Below the least normal number the others stand as far off as above it.
+		{api.Half, 0x400, Span{0xffe, 0x1000, 0x1002, -26, true}}, {api.Half, 0x401, Span{0x1002, 0x1004, 0x1006, -26, false}}, {api.Half, 0x7ff, Span{0x1ffa, 0x1ffc, 0x1ffe, -26, false}},
+		{api.Half, 0x800, Span{0xfff, 0x1000, 0x1002, -25, true}}, {api.Half, 0x801, Span{0x1002, 0x1004, 0x1006, -25, false}}, {api.Half, 0x3c00, Span{0xfff, 0x1000, 0x1002, -12, true}}, {api.Half, 0x7bff, Span{0x1ffa, 0x1ffc, 0x1ffe, 3, false}},
+		{api.Single, 1, Span{2, 4, 6, -151, false}}, {api.Single, 1 << 23, Span{1<<25 - 2, 1 << 25, 1<<25 + 2, -151, true}}, {api.Single, 2 << 23, Span{1<<25 - 1, 1 << 25, 1<<25 + 2, -150, true}}, {api.Single, 0x7f7fffff, Span{1<<26 - 6, 1<<26 - 4, 1<<26 - 2, 102, false}},
+		{api.Double, 1, Span{2, 4, 6, -1076, false}}, {api.Double, 1 << 52, Span{1<<54 - 2, 1 << 54, 1<<54 + 2, -1076, true}}, {api.Double, 2 << 52, Span{1<<54 - 1, 1 << 54, 1<<54 + 2, -1075, true}}, {api.Double, 2<<52 + 1, Span{1<<54 + 2, 1<<54 + 4, 1<<54 + 6, -1075, false}}, {api.Double, 0x7fefffffffffffff, Span{1<<55 - 6, 1<<55 - 4, 1<<55 - 2, 969, false}},
+	} {
+		if got := Of(k.format).Span(k.amount); got != k.want {
+			t.Errorf("Span(%x) of %d = %v, want %v", k.amount, k.format, got, k.want)
+		}
+	}
+}

@@ -17,7 +17,8 @@ func Exp(digits []int, power int) string {
 }
 
 // Fix writes digits, the first of them not 0, so many of which stand behind
-// the point. Where there are too few of them noughts stand.
+// the point. Where there are too few of them noughts stand; a number below 0
+// says how many more stand between the digits and the point.
 func Fix(digits []int, behind int) string {
 	ahead := len(digits) - behind
 	text := []byte{}
